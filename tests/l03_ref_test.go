@@ -135,13 +135,24 @@ func TestNamesAskedAtOnce(t *testing.T) {
 	var group sync.WaitGroup
 	signs := make([]string, 16)
 	for k := range signs {
-		group.Go(func() { signs[k] = impl.Refs("&amp;&notin&times;", k%2 == 0) + strings.Join(impl.Named(), "") })
+		group.Go(func() {
+			signs[k] = impl.Refs("&amp;&notin&times;", k%2 == 0) + strconv.Itoa(impl.NameSign("times")) + strings.Join(impl.Named(), "")
+		})
 	}
 	group.Wait()
 	for _, s := range signs {
-		if s != signs[0] || !strings.HasPrefix(s, "&∉×amp") {
+		if s != signs[0] || !strings.HasPrefix(s, "&∉×215amp") {
 			t.Errorf("asked at once: %q", s)
 		}
+	}
+}
+
+// TestNamesAreOneWhoeverTellsThem: the names come to Named, NameSign and Ref on unlike ways, and must be the same.
+func TestNamesAreOneWhoeverTellsThem(t *testing.T) {
+	for _, name := range impl.Named() {
+		sign := impl.NameSign(name)
+		checkRef(t, "&"+name+";", 0, false, impl.PutSign(sign), len(name)+2)
+		checkRef(t, "&"+name, 0, true, impl.PutSign(sign), len(name)+1)
 	}
 }
 
