@@ -130,8 +130,12 @@ func TestTagsThatBeginLikeOthers(t *testing.T) {
 	}
 }
 
-func TestTagsWithOneByteMoreOrAnother(t *testing.T) {
+func TestTagsWithOneByteMoreLessOrAnother(t *testing.T) {
 	for _, name := range listedTags() {
+		for at := range len(name) {
+			shorter := name[:at] + name[at+1:]
+			checkKindsOfTag(t, shorter, plainKindsOfTag(shorter))
+		}
 		for b := range 256 {
 			one := string([]byte{byte(b)})
 			for at := range len(name) + 1 {
