@@ -103,7 +103,7 @@ func plainPut(p impl.Page, up, at int, it impl.Item) *impl.Page {
 }
 
 func plainPutText(p impl.Page, s string) impl.Page {
-	if s == "" || !plainRight(p) {
+	if s == "" || !plainRight(p) || len(p.Items) == 3000 {
 		return p
 	}
 	up, at := plainPlace(p)
@@ -489,7 +489,6 @@ func bulkyPage(many int, ahead impl.Item, open ...int) impl.Page {
 
 func TestPutUpToMaxItems(t *testing.T) {
 	format := impl.Item{Kind: impl.ItTag, Name: "b"}
-	text := textItem("x", 0)
 	put := map[string]func(p impl.Page) impl.Page{
 		"PutText":            func(p impl.Page) impl.Page { return impl.PutText(p, "y") },
 		"PutTag":             func(p impl.Page) impl.Page { return impl.PutTag(p, "p", nil, 0, false) },
@@ -512,18 +511,69 @@ func TestPutUpToMaxItems(t *testing.T) {
 			}
 		}
 	}
-	// A text behind another one takes no room.
-	for many := 2997; many <= 3002; many++ {
-		p := bulkyPage(many, text, 1, 2, 3)
-		want := copiedPage(p)
-		if many <= 3000 {
-			want.Items[4].Text = "xy"
+}
+
+// TestPutTextUpToMaxItems holds that a full page takes no text, be it behind another one, and that one of one item less does.
+func TestPutTextUpToMaxItems(t *testing.T) {
+	// Text 4 is the last one of body, or just ahead of the table, of which parts may be open.
+	last := func(many int) impl.Page {
+		p := bulkyPage(many, textItem("x", 0), 1, 2)
+		kids := p.Items[2].Kids
+		slices.Reverse(kids[len(kids)-2:])
+		return p
+	}
+	pages := map[string]func(many int) impl.Page{
+		"at the end":       last,
+		"ahead of a table": func(many int) impl.Page { return bulkyPage(many, textItem("x", 0), 1, 2, 3) },
+		"ahead of a row's table": func(many int) impl.Page {
+			p := bulkyPage(many-2, textItem("x", 0), 1, 2, 3, many-2, many-1)
+			p.Items[3].Kids = []int{many - 2}
+			p.Items = append(p.Items, tagItem("tbody", 3, many-1), tagItem("tr", many-2))
+			return p
+		},
+		"that is empty": func(many int) impl.Page {
+			p := last(many)
+			p.Items[4].Text = ""
+			return p
+		},
+	}
+	for what, page := range pages {
+		for many := 2997; many <= 3002; many++ {
+			p := page(many)
+			if len(p.Items) != many {
+				t.Fatalf("%d items, not %d", len(p.Items), many)
+			}
+			checkPageOk(t, many <= 3000, p)
+			want := copiedPage(p)
+			if many < 3000 {
+				want.Items[4].Text += "y"
+			}
+			got := impl.PutText(p, "y")
+			if !samePage(got, want) || !samePage(plainPutText(p, "y"), want) {
+				t.Errorf("PutText behind a text %s, of %d items", what, many)
+			}
+			if again := impl.PutText(got, ""); !samePage(again, got) {
+				t.Errorf("PutText of nothing %s, of %d items", what, many)
+			}
 		}
-		if got := impl.PutText(p, "y"); !samePage(got, want) {
-			t.Errorf("PutText behind a text of %d items", many)
-		}
-		if got := impl.PutText(p, ""); !samePage(got, p) {
-			t.Errorf("PutText of nothing of %d items", many)
+	}
+}
+
+// TestPutTextThatFillsThePage holds that a new text may be the last item there is room for, and that nothing comes behind it then.
+func TestPutTextThatFillsThePage(t *testing.T) {
+	for _, open := range [][]int{{1, 2, 3}, {1, 2}, nil} {
+		for many := 2997; many <= 2999; many++ {
+			one := impl.PutText(bulkyPage(many, impl.Item{Kind: impl.ItTag, Name: "b"}, open...), "v")
+			if len(one.Items) != many+1 || one.Items[many].Text != "v" || !impl.PageOk(one) {
+				t.Fatalf("PutText of %d items makes %d", many, len(one.Items))
+			}
+			want := copiedPage(one)
+			if many < 2999 {
+				want.Items[many].Text = "vw"
+			}
+			if two := impl.PutText(one, "w"); !samePage(two, want) {
+				t.Errorf("two texts put to %d items are %q", many, two.Items[many].Text)
+			}
 		}
 	}
 }
@@ -1073,11 +1123,10 @@ func TestManyPuts(t *testing.T) {
 	words := 0
 	for range 1600 {
 		for range 2 {
-			many, last := len(p.Items), p.Items[len(p.Items)-1].Kind
-			p = impl.PutText(p, "x")
-			if many < impl.MaxItems || last == impl.ItText {
+			if len(p.Items) < impl.MaxItems {
 				words++
 			}
+			p = impl.PutText(p, "x")
 		}
 		p = impl.PutTag(p, "br", nil, 0, false)
 	}
