@@ -701,7 +701,69 @@ func rightPages() []impl.Page {
 	voidOnes.Body = 2
 	cellAlone := openPage("html", "body", "q", "b", "td", "i")
 	cellAlone.Body, cellAlone.Forms = 2, []int{4}
-	return append(pages, tablePage(), formPage(), pageToTry(), kindsPage(), inHead, voidOnes, cellAlone, noBody, noHtml, nothingOpen, onlyForms, htmlOpenTwice, headClosed, round, spaces, within, rawWithin, parts, twoLinks)
+	return append(pages, tablePage(), formPage(), pageToTry(), kindsPage(), inHead, voidOnes, cellAlone, noBody, noHtml, besidePage(), nothingOpen, onlyForms, htmlOpenTwice, headClosed, round, spaces, within, rawWithin, parts, twoLinks)
+}
+
+// besidePage has an html that is not open beside a `div` and a table in it that are; no head and no body.
+func besidePage() impl.Page {
+	return impl.Page{Items: itemsOf(pageItem(1, 2), tagItem("html", 0), tagItem("div", 0, 3), tagItem("table", 2)), Open: []int{2, 3}}
+}
+
+// TestHeadComesIntoTheHtml goes on in pages in which the html is not what is open innermost: the head stands in it all the same, and what comes behind it in the head.
+func TestHeadComesIntoTheHtml(t *testing.T) {
+	nothingOpen := openPage("html", "div")
+	nothingOpen.Open = nil
+	most := openPage(append([]string{"html"}, slices.Repeat([]string{"q"}, 39)...)...)
+	deep := strings.Repeat("q(", 38) + "q" + strings.Repeat(")", 38)
+	for _, c := range []struct {
+		p          impl.Page
+		head, meta string
+		open       []int
+	}{
+		{openPage("html"), `html(head[k=v])`, `html(head(meta))`, []int{1, 2}},
+		{openPage("html", "div"), `html(div head[k=v])`, `html(div head(meta))`, []int{1, 2, 3}},
+		{openPage("html", "div", "p"), `html(div(p) head[k=v])`, `html(div(p) head(meta))`, []int{1, 2, 3, 4}},
+		// Not ahead of the table, as other tags in it.
+		{openPage("html", "table"), `html(table head[k=v])`, `html(table head(meta))`, []int{1, 2, 3}},
+		{openPage("html", "div", "table", "tr"), `html(div(table(tr)) head[k=v])`, `html(div(table(tr)) head(meta))`, []int{1, 2, 3, 4, 5}},
+		// An html that is there, and not open.
+		{nothingOpen, `html(div head[k=v])`, `html(div head(meta))`, []int{3}},
+		{besidePage(), `html(head[k=v]) div(table)`, `html(head(meta)) div(table)`, []int{2, 3, 4}},
+		// None is put where something is open: the head comes to where any tag does.
+		{openPage("div"), `div(head[k=v])`, `div(head(meta))`, []int{1, 2}},
+		{openPage("div", "table"), `div(head[k=v] table)`, `div(head(meta) table)`, []int{1, 2, 3}},
+		// No more than MaxOpen are open: the head is there, and what comes behind it in what is open.
+		{most, `html(` + deep + ` head[k=v])`, `html(` + strings.Replace(deep, "q)", "q(meta))", 1) + ` head)`, most.Open},
+	} {
+		checkPageOk(t, true, c.p)
+		head := checkStep(t, c.p, startWord("head", "k", "v"))
+		meta := checkStep(t, c.p, startWord("meta"))
+		if told := branches(head.Items, 0); told != c.head {
+			t.Errorf("head in %s: %s, want %s", shownPage(c.p), told, c.head)
+		}
+		if told := branches(meta.Items, 0); told != c.meta {
+			t.Errorf("meta in %s: %s, want %s", shownPage(c.p), told, c.meta)
+		}
+		for _, q := range []impl.Page{head, meta} {
+			if q.Head != len(c.p.Items) || q.Items[q.Head].Name != "head" || !slices.Equal(q.Open, c.open) || !impl.PageOk(q) {
+				t.Errorf("in %s: the head is %d, open are %v, want %v", shownPage(c.p), q.Head, q.Open, c.open)
+			}
+		}
+		// There is one head then, and its attributes stay.
+		checkPage(t, "another head", impl.StartTag(head, "head", attrsOf("k", "w", "l", "v"), false), head)
+	}
+	// A body behind it stands in the html, too.
+	body := impl.Text(impl.StartTag(openPage("html", "div"), "head", nil, false), "x")
+	if told := branches(body.Items, 0); told != `html(div head body("x"))` || !slices.Equal(body.Open, []int{1, 4}) {
+		t.Errorf("a body behind the head: %s, open %v", told, body.Open)
+	}
+	// There is no head where there is no room for it.
+	full := filledPage(openPage("html", "div"), 3000)
+	checkPage(t, "a full page behind a head", impl.StartTag(full, "head", nil, false), full)
+	last := impl.StartTag(filledPage(openPage("html", "div"), 2999), "meta", nil, false)
+	if last.Head != 2999 || last.Items[2999].Up != 1 || len(last.Items) != 3000 {
+		t.Errorf("the last item is the head %d: %+v", last.Head, last.Items[len(last.Items)-1])
+	}
 }
 
 func TestEveryWordInEveryPage(t *testing.T) {

@@ -56,12 +56,22 @@ func plainTagNamed(p impl.Page, name string) int {
 	return -1
 }
 
+// plainHead puts the head into the html, be something else open further in; where there is no html, where any tag comes.
 func plainHead(p impl.Page, attrs []impl.Attr) impl.Page {
-	q := plainPutTag(plainHtml(p), "head", attrs, 0, true)
-	if last := len(q.Items) - 1; q.Items[last].Name == "head" && last >= len(p.Items) {
-		q.Head = last
+	p = plainHtml(p)
+	up, at := plainTagNamed(p, "html"), -1
+	if up < 0 {
+		up, at = plainPlace(p)
 	}
-	return q
+	q := plainPut(p, up, at, impl.Item{Kind: 2, Name: "head", Attrs: attrs})
+	if q == nil {
+		return p
+	}
+	q.Head = len(p.Items)
+	if len(p.Open) < 40 {
+		q.Open = append(q.Open, q.Head)
+	}
+	return *q
 }
 
 func plainBody(p impl.Page) impl.Page {
