@@ -605,6 +605,49 @@ func wrongTrees() [][]impl.Item {
 	}
 }
 
+// faultyTrees are treeToTry with one fault, of each sort.
+func faultyTrees() [][]impl.Item {
+	var all [][]impl.Item
+	for _, change := range []func(list []impl.Item){
+		func(list []impl.Item) { list[0].Kind = impl.ItTag },
+		func(list []impl.Item) { list[0].Up = 0 },
+		func(list []impl.Item) { list[2].Kind = impl.ItPage },
+		func(list []impl.Item) { list[2].Kind = 0 },
+		func(list []impl.Item) { list[2].Kind = 6 },
+		func(list []impl.Item) { list[2].Up = 4 },
+		func(list []impl.Item) { list[2].Up = 5 },
+		func(list []impl.Item) { list[2].Up = 2 },
+		func(list []impl.Item) { list[2].Up = 99 },
+		func(list []impl.Item) { list[1].Kids = []int{5, 2} },
+		func(list []impl.Item) { list[1].Kids = []int{5, 2, 4, 2} },
+		func(list []impl.Item) { list[1].Kids = []int{5, 2, 4, 99} },
+		func(list []impl.Item) { list[1].Kids = []int{5, 2, 4, -1} },
+		func(list []impl.Item) { list[1].Kids = []int{5, 2, 4, 6} },
+		func(list []impl.Item) { list[2].Name = "p" },
+		func(list []impl.Item) { list[2].Space = 1 },
+		func(list []impl.Item) { list[2].Attrs = attrsOf("a", "") },
+		func(list []impl.Item) { list[6].Name = "p" },
+		func(list []impl.Item) { list[3].Space = 2 },
+		func(list []impl.Item) { list[4].Text = "x" },
+		func(list []impl.Item) { list[4].Name = "" },
+		func(list []impl.Item) { list[4].Space = 3 },
+		func(list []impl.Item) { list[4].Space = -1 },
+		func(list []impl.Item) { list[1].Attrs = attrsOf("a", "1", "b", "2", "a", "1") },
+		func(list []impl.Item) { list[1].Up, list[0].Kids, list[4].Kids = 4, []int{3, 6}, []int{8, 7, 1} },
+	} {
+		list := treeToTry()
+		change(list)
+		all = append(all, list)
+	}
+	return all
+}
+
+func TestFaultyTrees(t *testing.T) {
+	for _, list := range faultyTrees() {
+		checkTreeOk(t, false, list...)
+	}
+}
+
 func TestOrderAndTexts(t *testing.T) {
 	for _, c := range []struct {
 		list  []impl.Item

@@ -551,37 +551,7 @@ func TestPageTextOfWrongTrees(t *testing.T) {
 			t.Errorf("%s says %q, %v, %d", shownItems(wrong), shortText(impl.PageText(wrong)), impl.Sayable(wrong), impl.Deep(wrong))
 		}
 	}
-	// One fault in a tree that is right, of each sort.
-	for k, change := range []func(list []impl.Item){
-		func(list []impl.Item) { list[0].Kind = impl.ItTag },
-		func(list []impl.Item) { list[0].Up = 0 },
-		func(list []impl.Item) { list[2].Kind = impl.ItPage },
-		func(list []impl.Item) { list[2].Kind = 0 },
-		func(list []impl.Item) { list[2].Kind = 6 },
-		func(list []impl.Item) { list[2].Up = 4 },
-		func(list []impl.Item) { list[2].Up = 5 },
-		func(list []impl.Item) { list[2].Up = 2 },
-		func(list []impl.Item) { list[2].Up = 99 },
-		func(list []impl.Item) { list[1].Kids = []int{5, 2} },
-		func(list []impl.Item) { list[1].Kids = []int{5, 2, 4, 2} },
-		func(list []impl.Item) { list[1].Kids = []int{5, 2, 4, 99} },
-		func(list []impl.Item) { list[1].Kids = []int{5, 2, 4, -1} },
-		func(list []impl.Item) { list[1].Kids = []int{5, 2, 4, 6} },
-		func(list []impl.Item) { list[2].Name = "p" },
-		func(list []impl.Item) { list[2].Space = 1 },
-		func(list []impl.Item) { list[2].Attrs = attrsOf("a", "") },
-		func(list []impl.Item) { list[6].Name = "p" },
-		func(list []impl.Item) { list[3].Space = 2 },
-		func(list []impl.Item) { list[4].Text = "x" },
-		func(list []impl.Item) { list[4].Name = "" },
-		func(list []impl.Item) { list[4].Space = 3 },
-		func(list []impl.Item) { list[4].Space = -1 },
-		func(list []impl.Item) { list[1].Attrs = attrsOf("a", "1", "b", "2", "a", "1") },
-		func(list []impl.Item) { list[1].Up, list[0].Kids, list[4].Kids = 4, []int{3, 6}, []int{8, 7, 1} },
-	} {
-		list := treeToTry()
-		change(list)
-		checkTreeOk(t, false, list...)
+	for k, list := range faultyTrees() {
 		if impl.PageText(list) != "" || impl.Sayable(list) || impl.Deep(list) != 0 {
 			t.Errorf("fault %d: %q, %v, %d", k, impl.PageText(list), impl.Sayable(list), impl.Deep(list))
 		}
@@ -684,7 +654,7 @@ func checkHeard(t *testing.T, s string) bool {
 	if htmls != 1 && !(full && htmls == 0) {
 		t.Fatalf("Html(%q) has %d html: %s", shortText(s), htmls, shownItems(list))
 	}
-	if !full && len(words) < 400 && plainMostOpen(words) < impl.MaxOpen && !plainSound(list) {
+	if !full && len(words) < 400 && plainMostOpen(words) < impl.MaxOpen && !impl.Sound(list) {
 		t.Fatalf("Html(%q) is not sound: %s", shortText(s), impl.PageText(list))
 	}
 	if clean := impl.Lines(impl.Clean(s)); clean != s && !sameItems(impl.Html(clean), list) {

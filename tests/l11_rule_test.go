@@ -92,31 +92,6 @@ func plainDeep(list []impl.Item, i int) int {
 	return most + 1
 }
 
-// plainSound is the document's rule of chapter 12 for a sound tree; of lists that are right only.
-func plainSound(list []impl.Item) bool {
-	whole := map[string]string{"tbody": "table", "tr": "tbody", "td": "tr", "th": "tr"}
-	var ofPage []string
-	for _, it := range list {
-		if it.Kind != 2 {
-			continue
-		}
-		up := list[it.Up]
-		if it.Up == 0 {
-			ofPage = append(ofPage, it.Name)
-		}
-		if it.Space != 0 {
-			continue
-		}
-		if plainIs("Void", it.Name) && len(it.Kids) > 0 || up.Name == "p" && up.Space == 0 && plainIs("Block", it.Name) {
-			return false
-		}
-		if about, ok := whole[it.Name]; ok && up.Name != about {
-			return false
-		}
-	}
-	return len(ofPage) == 1 && ofPage[0] == "html"
-}
-
 // plainMostOpen is how many are open at most while those words make a page; one more where the end of a `p` may begin one for a moment.
 func plainMostOpen(list []impl.Token) int {
 	p, most := impl.PageNew(), 0
