@@ -111,10 +111,10 @@ func TestNameOkByHand(t *testing.T) {
 	}
 }
 
-// spanEdges holds each sign at an end of a span of IsFirst and of IsNext, and the signs beside it.
-func spanEdges() []int {
+// spanEdges holds each sign at an end of one of these spans, and the signs beside it.
+func spanEdges(spans kindSpans) []int {
 	var list []int
-	for _, s := range nextSpans {
+	for _, s := range spans {
 		for _, n := range []int{s[0] - 1, s[0], s[0] + 1, s[1] - 1, s[1], s[1] + 1} {
 			if impl.SignOk(n) {
 				list = append(list, n)
@@ -126,7 +126,7 @@ func spanEdges() []int {
 }
 
 func TestNamesAtTheEndsOfSpans(t *testing.T) {
-	edges := spanEdges()
+	edges := spanEdges(nextSpans)
 	if len(edges) < 60 {
 		t.Fatal("too few signs:", edges)
 	}
