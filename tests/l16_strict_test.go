@@ -565,9 +565,10 @@ func checkStrictPage(t *testing.T, s string) {
 	if want := plainDocOf(list); !sameEls(doc, want) {
 		t.Fatalf("DocOf of Html(%q) = %s, want %s", shortText(s), shownEls(doc...), shownEls(want...))
 	}
-	full := len(list) == impl.MaxItems
-	if !impl.DocOk(doc) && !full || !plainDocOk(doc) && !full {
-		t.Fatalf("DocOf of Html(%q) = %s, which is not DocOk", shortText(s), shownEls(doc...))
+	// Only where notes take all the room there is no tag.
+	hasTag := slices.ContainsFunc(list[0].Kids, func(k int) bool { return list[k].Kind == impl.ItTag })
+	if impl.DocOk(doc) != hasTag || plainDocOk(doc) != hasTag || !hasTag && len(list) < impl.MaxItems {
+		t.Fatalf("DocOf of Html(%q) = %s; that it is DocOk is %v", shortText(s), shownEls(doc...), impl.DocOk(doc))
 	}
 	for i, it := range list {
 		if e := impl.ElOf(list, i); impl.ElOk(e) != (it.Kind == impl.ItTag) {
